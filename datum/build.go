@@ -4,7 +4,15 @@ import (
 	"slices"
 
 	"caracole/api"
+	"caracole/guard"
 )
+
+// limit fails if a result would have too many pieces. It is asked before the result is made, which could be much larger than any datum may be.
+func limit(pieces int) {
+	if pieces > api.DatumSize {
+		guard.Fail(api.ErrLarge)
+	}
+}
 
 // builder makes a datum anew; do makes each of its parts.
 type builder struct {
@@ -47,7 +55,7 @@ func (x exchange) in(d api.Datum) api.Datum {
 func place(d *api.Datum, path []int) *api.Datum {
 	for _, i := range path {
 		if i < 0 || i >= len(d.Parts) {
-			fail(api.ErrRange)
+			guard.Fail(api.ErrRange)
 		}
 		d = &d.Parts[i]
 	}
@@ -64,7 +72,7 @@ next:
 		goto next
 	}
 	if d.Kind != api.Nil {
-		fail(api.ErrKind)
+		guard.Fail(api.ErrKind)
 	}
 	return out
 }

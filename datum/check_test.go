@@ -106,7 +106,7 @@ func TestCheckValid(t *testing.T) {
 func TestCheckRandom(t *testing.T) {
 	r := newRandom(1)
 	for range 300 {
-		if d := r.datum(4); datum.Check(d) != api.OK {
+		if d := r.Datum(4); datum.Check(d) != api.OK {
 			t.Error(show(d), datum.Check(d))
 		}
 	}

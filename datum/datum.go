@@ -5,17 +5,18 @@ import (
 	"slices"
 
 	"caracole/api"
+	"caracole/guard"
 )
 
 // Check returns the first error of a datum, otherwise OK.
 func Check(d api.Datum) api.Errno {
-	_, e := guard(func() int { return valid(d) })
+	_, e := guard.Call(func() int { return valid(d) })
 	return e
 }
 
 // Compare returns -1 if a comes before b, 0 if they are equal, and 1 if a comes behind b.
 func Compare(a, b api.Datum) (int, api.Errno) {
-	return guard(func() int {
+	return guard.Call(func() int {
 		valid(a)
 		valid(b)
 		return order(a, b)
@@ -24,7 +25,7 @@ func Compare(a, b api.Datum) (int, api.Errno) {
 
 // Size returns how many pieces a datum consists of, and how many of them are inside of one another at most.
 func Size(d api.Datum) (pieces, depth int, e api.Errno) {
-	x, e := guard(func() extent {
+	x, e := guard.Call(func() extent {
 		n := valid(d)
 		return extent{pieces: n, depth: deepest(d)}
 	})
@@ -33,7 +34,7 @@ func Size(d api.Datum) (pieces, depth int, e api.Errno) {
 
 // ToList returns the elements of a list: ErrKind if the datum is none.
 func ToList(d api.Datum) ([]api.Datum, api.Errno) {
-	return guard(func() []api.Datum {
+	return guard.Call(func() []api.Datum {
 		valid(d)
 		return cloneAll(elements(d))
 	})
@@ -41,7 +42,7 @@ func ToList(d api.Datum) ([]api.Datum, api.Errno) {
 
 // FromList returns the list of some elements.
 func FromList(l []api.Datum) (api.Datum, api.Errno) {
-	return guard(func() api.Datum {
+	return guard.Call(func() api.Datum {
 		pieces := 1
 		for _, x := range l {
 			pieces += 1 + valid(x)
@@ -53,7 +54,7 @@ func FromList(l []api.Datum) (api.Datum, api.Errno) {
 
 // Append returns the elements of the list a with b behind them: ErrKind unless a is a list.
 func Append(a, b api.Datum) (api.Datum, api.Errno) {
-	return guard(func() api.Datum {
+	return guard.Call(func() api.Datum {
 		front := valid(a)
 		back := valid(b)
 		l := elements(a)
@@ -64,7 +65,7 @@ func Append(a, b api.Datum) (api.Datum, api.Errno) {
 
 // Turn returns the list of the elements in the other order: ErrKind unless the datum is a list.
 func Turn(d api.Datum) (api.Datum, api.Errno) {
-	return guard(func() api.Datum {
+	return guard.Call(func() api.Datum {
 		valid(d)
 		l := elements(d)
 		slices.Reverse(l)
@@ -74,7 +75,7 @@ func Turn(d api.Datum) (api.Datum, api.Errno) {
 
 // At returns the part at a path: ErrRange if it leads to nothing.
 func At(d api.Datum, path []int) (api.Datum, api.Errno) {
-	return guard(func() api.Datum {
+	return guard.Call(func() api.Datum {
 		valid(d)
 		return clone(*place(&d, path))
 	})
@@ -82,7 +83,7 @@ func At(d api.Datum, path []int) (api.Datum, api.Errno) {
 
 // Put returns the datum with x at a path: ErrRange if it leads to nothing.
 func Put(d api.Datum, path []int, x api.Datum) (api.Datum, api.Errno) {
-	return guard(func() api.Datum {
+	return guard.Call(func() api.Datum {
 		whole := valid(d)
 		added := valid(x)
 		gone := valid(*place(&d, path))
@@ -96,7 +97,7 @@ func Put(d api.Datum, path []int, x api.Datum) (api.Datum, api.Errno) {
 
 // Find returns all paths that lead to a part that equals x, in order.
 func Find(d, x api.Datum) ([][]int, api.Errno) {
-	return guard(func() [][]int {
+	return guard.Call(func() [][]int {
 		valid(d)
 		valid(x)
 		return find(d, x)
@@ -105,7 +106,7 @@ func Find(d, x api.Datum) ([][]int, api.Errno) {
 
 // Replace returns the datum with y in the place of each part that equals x.
 func Replace(d, x, y api.Datum) (api.Datum, api.Errno) {
-	return guard(func() api.Datum {
+	return guard.Call(func() api.Datum {
 		whole := valid(d)
 		gone := valid(x)
 		added := valid(y)
@@ -116,7 +117,7 @@ func Replace(d, x, y api.Datum) (api.Datum, api.Errno) {
 
 // Differ returns the first path at which the parts of both differ in themselves: ErrNone if the data are equal.
 func Differ(a, b api.Datum) ([]int, api.Errno) {
-	return guard(func() []int {
+	return guard.Call(func() []int {
 		valid(a)
 		valid(b)
 		return difference(a, b)
@@ -125,7 +126,7 @@ func Differ(a, b api.Datum) ([]int, api.Errno) {
 
 // Symbols returns the texts of all symbols in a datum, ascending by bytes, each once.
 func Symbols(d api.Datum) ([]string, api.Errno) {
-	return guard(func() []string {
+	return guard.Call(func() []string {
 		valid(d)
 		return ascending(names(d))
 	})

@@ -108,7 +108,7 @@ func TestListLaws(t *testing.T) {
 		return d
 	}
 	for range 200 {
-		a, b, c := r.list(2), r.list(2), r.datum(2)
+		a, b, c := r.List(2), r.List(2), r.Datum(2)
 		l, _ := datum.ToList(a)
 		m, _ := datum.ToList(b)
 		ab := must(datum.Append(a, b))
@@ -126,8 +126,8 @@ func TestListLaws(t *testing.T) {
 	}
 	for range 100 {
 		var l []api.Datum
-		for range r.IntN(5) {
-			l = append(l, r.datum(3))
+		for range r.Below(5) {
+			l = append(l, r.Datum(3))
 		}
 		back, e := datum.ToList(must(datum.FromList(l)))
 		if e != api.OK || !slices.EqualFunc(back, l, same) {

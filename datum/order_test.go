@@ -52,7 +52,7 @@ func TestCompareLaws(t *testing.T) {
 	r := newRandom(2)
 	var l []api.Datum
 	for range 40 {
-		l = append(l, r.datum(3))
+		l = append(l, r.Datum(3))
 	}
 	sign := func(a, b api.Datum) int {
 		c, e := datum.Compare(a, b)
@@ -108,7 +108,7 @@ func TestSize(t *testing.T) {
 func TestSizeLaws(t *testing.T) {
 	r := newRandom(3)
 	for range 200 {
-		d := r.datum(4)
+		d := r.Datum(4)
 		pieces, depth := 1, 1
 		for _, p := range d.Parts {
 			n, m, _ := datum.Size(p)
@@ -135,7 +135,7 @@ func TestSymbols(t *testing.T) {
 func TestSymbolLaws(t *testing.T) {
 	r := newRandom(4)
 	for range 300 {
-		d := r.datum(4)
+		d := r.Datum(4)
 		got, e := datum.Symbols(d)
 		want := map[string]bool{}
 		if d.Kind == api.Sym {

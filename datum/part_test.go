@@ -81,9 +81,9 @@ func TestPutLaws(t *testing.T) {
 	r := newRandom(6)
 	begins := func(a, b []int) bool { return len(a) <= len(b) && slices.Equal(a, b[:len(a)]) }
 	for range 150 {
-		d, x := r.datum(4), r.datum(2)
+		d, x := r.Datum(4), r.Datum(2)
 		paths := allPaths(d)
-		path := paths[r.IntN(len(paths))]
+		path := paths[r.Below(len(paths))]
 		here, e := datum.At(d, path)
 		if e != api.OK || !same(here, follow(d, path)) {
 			t.Error(show(d), path, show(here), e)
@@ -124,8 +124,8 @@ func TestFind(t *testing.T) {
 func TestFindLaws(t *testing.T) {
 	r := newRandom(7)
 	for range 200 {
-		d := r.datum(4)
-		x := r.part(d)
+		d := r.Datum(4)
+		x := r.Part(d)
 		var want [][]int
 		for _, path := range allPaths(d) {
 			if p, _ := datum.At(d, path); same(p, x) {
@@ -180,8 +180,8 @@ func TestReplaceLaws(t *testing.T) {
 		return len(l)
 	}
 	for range 300 {
-		d, y := r.datum(4), r.datum(1)
-		x := r.part(d)
+		d, y := r.Datum(4), r.Datum(1)
+		x := r.Part(d)
 		got, e := datum.Replace(d, x, y)
 		if e != api.OK || !same(got, naiveReplace(d, x, y)) {
 			t.Error(show(d), show(x), show(y), show(got), e)
@@ -237,9 +237,9 @@ func TestDifferLaws(t *testing.T) {
 		return a.Kind == b.Kind && a.Num == b.Num && a.Text == b.Text && len(a.Parts) == len(b.Parts)
 	}
 	for range 300 {
-		a := r.datum(4)
+		a := r.Datum(4)
 		paths := allPaths(a)
-		b, _ := datum.Put(a, paths[r.IntN(len(paths))], r.datum(1))
+		b, _ := datum.Put(a, paths[r.Below(len(paths))], r.Datum(1))
 		c, _ := datum.Compare(a, b)
 		first, e := datum.Differ(a, b)
 		if (e == api.ErrNone) != (c == 0) || e != api.OK && (e != api.ErrNone || len(first) > 0) {

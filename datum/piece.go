@@ -6,6 +6,7 @@ import (
 	"strings"
 
 	"caracole/api"
+	"caracole/guard"
 )
 
 // piece is a datum at work. There is a type for all kinds that use the same fields.
@@ -47,14 +48,15 @@ func atWork(d api.Datum) piece {
 	case api.Pair, api.Vec:
 		return branch{d}
 	}
-	panic(failure{api.ErrKind})
+	guard.Fail(api.ErrKind)
+	return nil
 }
 
 // inspect fails with the first error that a datum has in itself, whatever its parts are.
 func inspect(d api.Datum) {
 	p := atWork(d)
 	if !p.formed() {
-		fail(api.ErrForm)
+		guard.Fail(api.ErrForm)
 	}
 	switch p := p.(type) {
 	case number:
@@ -70,18 +72,18 @@ func (p number) inspectNum() {
 		least, most = 0, 1
 	}
 	if p.Num < least || p.Num > most {
-		fail(api.ErrValue)
+		guard.Fail(api.ErrValue)
 	}
 }
 
 func (p text) inspectText() {
 	switch {
 	case p.Kind == api.Sym && !isSymbol(p.Text):
-		fail(api.ErrName)
+		guard.Fail(api.ErrName)
 	case p.Kind == api.Str && len(p.Text) > api.StrLong:
-		fail(api.ErrLarge)
+		guard.Fail(api.ErrLarge)
 	case p.Kind == api.Str && !isPlain(p.Text):
-		fail(api.ErrValue)
+		guard.Fail(api.ErrValue)
 	}
 }
 

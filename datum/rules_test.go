@@ -6,6 +6,7 @@ import (
 
 	"caracole/api"
 	"caracole/datum"
+	"caracole/sample"
 )
 
 // call is a function of the package with one datum in the first place of its data, another one in all others, and all else so that it comes to nothing if the data are valid.
@@ -99,8 +100,8 @@ func apart(t *testing.T, args, results []api.Datum) {
 func TestMemory(t *testing.T) {
 	r := newRandom(10)
 	for range 50 {
-		a, b := r.list(3), r.datum(3)
-		x := r.part(b)
+		a, b := r.List(3), r.Datum(3)
+		x := r.Part(b)
 		elements, _ := datum.ToList(a)
 		apart(t, []api.Datum{a}, elements)
 		joined, _ := datum.Append(a, b)
@@ -113,7 +114,7 @@ func TestMemory(t *testing.T) {
 			apart(t, []api.Datum{a, b}, []api.Datum{at, put})
 		}
 		y := vec(num(5), vec(num(6)))
-		replaced, _ := datum.Replace(b, copyOf(x), y)
+		replaced, _ := datum.Replace(b, sample.Copy(x), y)
 		kept, _ := datum.Replace(b, sym("nowhere"), y)
 		apart(t, []api.Datum{b, y}, []api.Datum{replaced, kept})
 	}
@@ -125,15 +126,6 @@ func TestMemory(t *testing.T) {
 	apart(t, []api.Datum{many}, []api.Datum{twice})
 	again, _ := datum.Replace(read("#(1 1 (1 . 1))"), num(1), many)
 	apart(t, []api.Datum{many}, []api.Datum{again})
-}
-
-// copyOf copies a datum, so that it shares no memory with what it was taken from.
-func copyOf(d api.Datum) api.Datum {
-	out := api.Datum{Kind: d.Kind, Num: d.Num, Text: d.Text}
-	for _, p := range d.Parts {
-		out.Parts = append(out.Parts, copyOf(p))
-	}
-	return out
 }
 
 // TestPathsApart: paths can be appended to and changed without an effect on each other (R4).
@@ -156,8 +148,8 @@ func TestPathsApart(t *testing.T) {
 func TestArgumentsStay(t *testing.T) {
 	r := newRandom(11)
 	for range 40 {
-		a, b := r.list(3), r.datum(3)
-		x := r.part(b)
+		a, b := r.List(3), r.Datum(3)
+		x := r.Part(b)
 		path := allPaths(b)[0]
 		before := showAll([]api.Datum{a, b, x})
 		for name, call := range calls() {
@@ -224,13 +216,13 @@ func TestEmptyAndNil(t *testing.T) {
 func TestAnyValue(t *testing.T) {
 	r := newRandom(12)
 	for range 3000 {
-		d, x := r.wild(3), r.wild(2)
+		d, x := wild(r, 3), wild(r, 2)
 		for name, call := range calls() {
 			if e := call(d, x); e < api.OK || e > api.ErrStuck {
 				t.Error(name, d, x, e)
 			}
 		}
-		path := []int{r.IntN(4) - 1, r.IntN(4) - 1}
+		path := []int{r.Below(4) - 1, r.Below(4) - 1}
 		if p, e := datum.At(d, path); e == api.OK && datum.Check(p) != api.OK {
 			t.Error(d, path, p)
 		}
@@ -241,20 +233,20 @@ func TestAnyValue(t *testing.T) {
 }
 
 // wild makes a datum with any fields.
-func (r random) wild(depth int) api.Datum {
-	d := api.Datum{Kind: r.IntN(9) - 1}
-	if d.Kind < api.Pair && r.IntN(4) > 0 {
-		return r.datum(0)
+func wild(r *sample.Random, depth int) api.Datum {
+	d := api.Datum{Kind: r.Below(9) - 1}
+	if d.Kind < api.Pair && r.Below(4) > 0 {
+		return r.Datum(0)
 	}
-	if r.IntN(5) == 0 {
-		d.Num = r.IntN(5) - 2
+	if r.Below(5) == 0 {
+		d.Num = r.Below(5) - 2
 	}
-	if r.IntN(5) == 0 {
-		d.Text = []string{"a", "A", "1", "\n", ""}[r.IntN(5)]
+	if r.Below(5) == 0 {
+		d.Text = []string{"a", "A", "1", "\n", ""}[r.Below(5)]
 	}
 	if depth > 0 {
-		for range 2 + r.IntN(3)/2 {
-			d.Parts = append(d.Parts, r.wild(depth-1))
+		for range 2 + r.Below(3)/2 {
+			d.Parts = append(d.Parts, wild(r, depth-1))
 		}
 	}
 	return d

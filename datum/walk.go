@@ -6,6 +6,7 @@ import (
 	"slices"
 
 	"caracole/api"
+	"caracole/guard"
 )
 
 // walker goes through the pieces of a datum. It looks at the parts of one only if enter says so.
@@ -130,7 +131,7 @@ pieces:
 		}
 	}
 	if met == len(others) {
-		fail(api.ErrNone)
+		guard.Fail(api.ErrNone)
 	}
 	return first
 }

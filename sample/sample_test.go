@@ -1,0 +1,53 @@
+package sample
+
+import (
+	"testing"
+
+	"caracole/api"
+)
+
+func TestReadShow(t *testing.T) {
+	for _, text := range []string{"()", "#f", "#t", "-5", "a-b", `"s"`, "(1 . 2)", "(1 (a #(2 #()) . b) ())", "#(#(1) (2))"} {
+		if got := Show(Read(text)); got != text {
+			t.Error(text, got)
+		}
+	}
+	if got := Show(api.Datum{Kind: 9}); got != "??" {
+		t.Error(got)
+	}
+}
+
+func TestSame(t *testing.T) {
+	all := ReadAll("()", "#f", "#t", "1", "2", "a", `"a"`, "(1)", "(1 . 2)", "#()", "#(1)", "#(1 2)")
+	for i, a := range all {
+		for k, b := range all {
+			if Same(a, Copy(b)) != (i == k) {
+				t.Error(Show(a), Show(b))
+			}
+		}
+	}
+}
+
+// TestRandom: the same seed makes the same data, another one does not, and numbers are in their range.
+func TestRandom(t *testing.T) {
+	a, b, c := NewRandom(1), NewRandom(1), NewRandom(2)
+	same := 0
+	for range 100 {
+		x, y, z := a.Datum(4), b.Datum(4), c.Datum(4)
+		if !Same(x, y) {
+			t.Error(Show(x), Show(y))
+		}
+		if Same(x, z) {
+			same++
+		}
+		if n := a.Below(3); n < 0 || n > 2 || n != b.Below(3) {
+			t.Error(n)
+		}
+		if !Same(a.Part(x), b.Part(x)) {
+			t.Error(Show(x))
+		}
+	}
+	if same > 50 {
+		t.Error(same)
+	}
+}
