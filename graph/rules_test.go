@@ -185,7 +185,7 @@ func TestEmptyAndNil(t *testing.T) {
 func TestAnyValue(t *testing.T) {
 	r := sample.NewRandom(21)
 	wild := func() api.Graph {
-		g := anyGraph(r, 3)
+		g := r.Graph(3)
 		for range r.Below(3) {
 			c := &g.Cells[r.Below(len(g.Cells))]
 			switch r.Below(5) {

@@ -138,7 +138,7 @@ func TestSameLaws(t *testing.T) {
 	r := sample.NewRandom(12)
 	all := graphs(13, 12)
 	for _, g := range all[:20] {
-		all = append(all, spread(r, g))
+		all = append(all, r.Spread(g))
 	}
 	equals := 0
 	for i, g := range all {

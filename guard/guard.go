@@ -7,13 +7,19 @@ import (
 	"caracole/api"
 )
 
-// failure is the error that ends the work of a call.
-type failure struct{ code api.Errno }
+// failure is the error that ends the work of a call, and the place in a text where it is, if it is in one.
+type failure struct {
+	code api.Errno
+	at   int
+}
 
 func (f failure) Error() string { return f.code.Error() }
 
 // Fail ends the work that Call does with an error.
-func Fail(code api.Errno) { panic(failure{code}) }
+func Fail(code api.Errno) { FailAt(code, 0) }
+
+// FailAt ends the work that CallAt does with an error at a place.
+func FailAt(code api.Errno, at int) { panic(failure{code: code, at: at}) }
 
 // Check ends the work that Call does unless there is no error.
 func Check(e api.Errno) {
@@ -23,21 +29,30 @@ func Check(e api.Errno) {
 }
 
 // Call does the work of an exported function, and returns the error with which it was ended, if it was.
-func Call[T any](work func() T) (out T, e api.Errno) {
-	defer func() {
-		if r := recover(); r != nil {
-			e = codeOf(r)
-		}
-	}()
-	return work(), api.OK
+func Call[T any](work func() T) (T, api.Errno) {
+	out, _, e := CallAt(work)
+	return out, e
 }
 
-func codeOf(r any) api.Errno {
-	if err, ok := r.(error); ok {
-		var f failure
-		if errors.As(err, &f) {
-			return f.code
+// CallAt is Call for work on a text, and returns the place of the error, too.
+func CallAt[T any](work func() T) (out T, at int, e api.Errno) {
+	defer func() {
+		switch r := recover().(type) {
+		case nil:
+		case error:
+			f := failureOf(r)
+			at, e = f.at, f.code
+		default:
+			e = api.ErrForm
 		}
+	}()
+	return work(), 0, api.OK
+}
+
+func failureOf(err error) failure {
+	var f failure
+	if !errors.As(err, &f) {
+		f.code = api.ErrForm // no panic but a failure is expected; callers are promised an error all the same
 	}
-	return api.ErrForm // no panic but a failure is expected; callers are promised an error all the same
+	return f
 }

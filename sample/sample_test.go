@@ -51,3 +51,16 @@ func TestRandom(t *testing.T) {
 		t.Error(same)
 	}
 }
+
+func TestParseGraph(t *testing.T) {
+	for _, x := range []string{"Nil", "Pair 1 0, Num 1", "2; Bool 0, Num -5, Sym ab, Str a, Vec, Vec 0 1 2, Pair 3 3"} {
+		if got := GraphText(ParseGraph(x)); got != x {
+			t.Error(x, got)
+		}
+	}
+	for i, g := range append(Graphs(3, 20), GraphC(), GraphB(), GraphT()) {
+		if text := GraphText(g); GraphText(ParseGraph(text)) != text || g.Root >= len(g.Cells) {
+			t.Error(i, text)
+		}
+	}
+}
