@@ -1,10 +1,9 @@
 package datum
 
 import (
-	"slices"
-
 	"caracole/api"
 	"caracole/guard"
+	"caracole/plain"
 )
 
 // limit fails if a result would have too many pieces. It is asked before the result is made, which could be much larger than any datum may be.
@@ -20,33 +19,15 @@ type builder struct {
 }
 
 func (b builder) build(d api.Datum) api.Datum {
-	out := api.Datum{Kind: d.Kind, Num: d.Num, Text: d.Text}
-	if len(d.Parts) > 0 {
-		out.Parts = make([]api.Datum, len(d.Parts))
-	}
-	for i := range len(d.Parts) {
-		out.Parts[i] = b.do(d.Parts[i])
-	}
-	return out
-}
-
-// clone makes a datum that shares no memory with d.
-func clone(d api.Datum) api.Datum { return builder{do: clone}.build(d) }
-
-func cloneAll(l []api.Datum) []api.Datum {
-	out := make([]api.Datum, len(l))
-	for i, x := range l {
-		out[i] = clone(x)
-	}
-	return out
+	return api.Datum{Kind: d.Kind, Num: d.Num, Text: d.Text, Parts: plain.Each(d.Parts, b.do)}
 }
 
 // exchange puts new in the place of parts that equal old.
 type exchange struct{ old, new api.Datum }
 
 func (x exchange) in(d api.Datum) api.Datum {
-	if equal(d, x.old) {
-		return clone(x.new)
+	if plain.Equal(d, x.old) {
+		return plain.Copy(x.new)
 	}
 	return builder{do: x.in}.build(d)
 }
@@ -64,24 +45,11 @@ func place(d *api.Datum, path []int) *api.Datum {
 
 // elements returns the elements of a list as they stand in it, and fails if d is none.
 func elements(d api.Datum) []api.Datum {
-	var out []api.Datum
-next:
-	if d.Kind == api.Pair {
-		out = append(out, d.Parts[0])
-		d = d.Parts[1]
-		goto next
-	}
-	if d.Kind != api.Nil {
+	l, tail := plain.Elements(d)
+	if tail.Kind != api.Nil {
 		guard.Fail(api.ErrKind)
 	}
-	return out
+	return l
 }
 
-// join makes pairs of the elements, with tail behind them.
-func join(tail api.Datum, l ...api.Datum) api.Datum {
-	out := clone(tail)
-	for _, x := range slices.Backward(l) {
-		out = api.Datum{Kind: api.Pair, Parts: []api.Datum{clone(x), out}}
-	}
-	return out
-}
+func copyAll(l []api.Datum) []api.Datum { return plain.Each(l, plain.Copy) }

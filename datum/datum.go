@@ -6,6 +6,7 @@ import (
 
 	"caracole/api"
 	"caracole/guard"
+	"caracole/plain"
 )
 
 // Check returns the first error of a datum, otherwise OK.
@@ -36,7 +37,7 @@ func Size(d api.Datum) (pieces, depth int, e api.Errno) {
 func ToList(d api.Datum) ([]api.Datum, api.Errno) {
 	return guard.Call(func() []api.Datum {
 		valid(d)
-		return cloneAll(elements(d))
+		return copyAll(elements(d))
 	})
 }
 
@@ -48,7 +49,7 @@ func FromList(l []api.Datum) (api.Datum, api.Errno) {
 			pieces += 1 + valid(x)
 		}
 		limit(pieces)
-		return join(api.Datum{}, l...)
+		return plain.List(api.Datum{}, copyAll(l)...)
 	})
 }
 
@@ -59,7 +60,7 @@ func Append(a, b api.Datum) (api.Datum, api.Errno) {
 		back := valid(b)
 		l := elements(a)
 		limit(front - 1 + back)
-		return join(b, l...)
+		return plain.List(plain.Copy(b), copyAll(l)...)
 	})
 }
 
@@ -69,7 +70,7 @@ func Turn(d api.Datum) (api.Datum, api.Errno) {
 		valid(d)
 		l := elements(d)
 		slices.Reverse(l)
-		return join(api.Datum{}, l...)
+		return plain.List(api.Datum{}, copyAll(l)...)
 	})
 }
 
@@ -77,7 +78,7 @@ func Turn(d api.Datum) (api.Datum, api.Errno) {
 func At(d api.Datum, path []int) (api.Datum, api.Errno) {
 	return guard.Call(func() api.Datum {
 		valid(d)
-		return clone(*place(&d, path))
+		return plain.Copy(*place(&d, path))
 	})
 }
 
@@ -88,9 +89,9 @@ func Put(d api.Datum, path []int, x api.Datum) (api.Datum, api.Errno) {
 		added := valid(x)
 		gone := valid(*place(&d, path))
 		limit(whole - gone + added)
-		out := clone(d)
+		out := plain.Copy(d)
 		spot := place(&out, path)
-		*spot = clone(x)
+		*spot = plain.Copy(x)
 		return out
 	})
 }

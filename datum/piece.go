@@ -98,7 +98,3 @@ func order(a, b api.Datum) int {
 func alike(a, b api.Datum) bool {
 	return a.Kind == b.Kind && a.Num == b.Num && a.Text == b.Text && len(a.Parts) == len(b.Parts)
 }
-
-func equal(a, b api.Datum) bool {
-	return alike(a, b) && slices.EqualFunc(a.Parts, b.Parts, equal)
-}

@@ -7,6 +7,7 @@ import (
 
 	"caracole/api"
 	"caracole/guard"
+	"caracole/plain"
 )
 
 // walker goes through the pieces of a datum. It looks at the parts of one only if enter says so.
@@ -105,7 +106,7 @@ func deepest(d api.Datum) int {
 func find(d, x api.Datum) [][]int {
 	var found [][]int
 	for path, p := range walk(d) {
-		if equal(p, x) {
+		if plain.Equal(p, x) {
 			found = append(found, slices.Clone(path))
 		}
 	}

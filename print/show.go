@@ -8,6 +8,8 @@ import (
 
 	"caracole/api"
 	"caracole/guard"
+	"caracole/plain"
+	"caracole/side"
 )
 
 // quoteWord is the symbol that is shown as a '.
@@ -60,17 +62,11 @@ func split(d api.Datum) (front string, items []api.Datum, back string) {
 
 // elements returns the elements of a list, and what is behind a point as one more.
 func elements(d api.Datum) []api.Datum {
-	l := d.Parts[:1:1] // without room behind it, so that what is appended does not overwrite the second part
-next:
-	d = d.Parts[1]
-	switch d.Kind {
-	case api.Pair:
-		l = append(l, d.Parts[0])
-		goto next
-	case api.Nil:
+	l, tail := plain.Elements(d)
+	if tail.Kind == api.Nil {
 		return l
 	}
-	return append(l, api.Datum{Kind: behind, Parts: []api.Datum{d}})
+	return append(l, api.Datum{Kind: behind, Parts: []api.Datum{tail}})
 }
 
 func isQuote(l []api.Datum) bool {
@@ -171,7 +167,7 @@ func inTurn(l []api.Datum) string {
 		guard.Fail(api.ErrLarge) // each text has at least one byte, and its line feed
 	}
 	var s sheet
-	for _, x := range sideBySide(l, lineOf) {
+	for _, x := range side.BySide(l, lineOf) {
 		guard.Check(x.e)
 		s.write(x.text, "\n")
 	}

@@ -64,3 +64,32 @@ func TestParseGraph(t *testing.T) {
 		}
 	}
 }
+
+func TestTermText(t *testing.T) {
+	for _, x := range []string{"x", "5", "(quote x)", "(quote #())", "(fn (x y) (x y))", "(rec f () (let x 1 x))", "(if (marks) (car x) (cons 1 2))", "(f)", "((quote if) 1)"} {
+		if got := TermText(Term(x)); got != x {
+			t.Error(x, got)
+		}
+	}
+	if got := TermText(api.Term{Op: 99}); got != "??" {
+		t.Error(got)
+	}
+}
+
+// TestRandomTerms: terms by chance are told by their texts, have any Op, and share no memory with their copies.
+func TestRandomTerms(t *testing.T) {
+	r := NewRandom(4)
+	met := map[int]bool{}
+	for i := range 400 {
+		x := r.Term(i % 5)
+		if again := Term(TermText(x)); !SameTerm(again, x) || !SameTerm(CopyTerm(x), x) {
+			t.Error(TermText(x), TermText(again))
+		}
+		for _, path := range TermPaths(x) {
+			met[FollowTerm(x, path).Op] = true
+		}
+	}
+	if len(met) != api.Emit+1 {
+		t.Error(met)
+	}
+}

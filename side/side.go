@@ -1,9 +1,10 @@
-package print
+// Package side does work side by side.
+package side
 
 import "sync"
 
-// sideBySide does some work, which may not panic, for each element of a list at the same time, and returns the results in the order of the list.
-func sideBySide[T, R any](l []T, work func(T) R) []R {
+// BySide does some work, which may not panic, for each element of a list at the same time, and returns the results in the order of the list.
+func BySide[T, R any](l []T, work func(T) R) []R {
 	type result struct {
 		at  int
 		out R
@@ -18,7 +19,7 @@ func sideBySide[T, R any](l []T, work func(T) R) []R {
 		close(results)
 	}()
 	all := make([]R, len(l))
-	for r, more := <-results; more; r, more = <-results {
+	for r := range results {
 		all[r.at] = r.out
 	}
 	return all
