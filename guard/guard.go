@@ -28,6 +28,12 @@ func Check(e api.Errno) {
 	}
 }
 
+// Get returns what another layer returns, and ends the work that Call does if that is an error.
+func Get[T any](x T, e api.Errno) T {
+	Check(e)
+	return x
+}
+
 // Call does the work of an exported function, and returns the error with which it was ended, if it was.
 func Call[T any](work func() T) (T, api.Errno) {
 	out, _, e := CallAt(work)

@@ -39,6 +39,16 @@ func TestCall(t *testing.T) {
 	}
 }
 
+// TestGet: what another layer returns comes out, or its error.
+func TestGet(t *testing.T) {
+	for _, want := range []api.Errno{api.OK, api.ErrRange} {
+		out, e := Call(func() int { return Get(len("abc"), want) })
+		if e != want || (out == 3) != (e == api.OK) {
+			t.Error(out, e, "want", want)
+		}
+	}
+}
+
 // TestCallAt: the place comes out with the error, and is 0 where none was named.
 func TestCallAt(t *testing.T) {
 	for i, x := range []struct {

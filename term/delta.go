@@ -176,8 +176,4 @@ func text(d api.Datum) api.Datum {
 }
 
 // own returns a datum that shares no memory with others, and fails if it is not valid.
-func own(d api.Datum) api.Datum {
-	out, e := datum.At(d, nil)
-	guard.Check(e)
-	return out
-}
+func own(d api.Datum) api.Datum { return guard.Get(datum.At(d, nil)) }
