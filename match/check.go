@@ -4,6 +4,7 @@ import (
 	"caracole/api"
 	"caracole/datum"
 	"caracole/guard"
+	"caracole/pattern"
 	"caracole/plain"
 )
 
@@ -12,12 +13,12 @@ func checkPattern(p api.Datum) {
 	guard.Check(datum.Check(p))
 	met := map[string]bool{}
 	for x := range pieces(p) {
-		switch sortOf(x.Datum) {
-		case ellipsis:
+		switch pattern.SortOf(x.Datum) {
+		case pattern.Ellipsis:
 			x.checkPlace()
-		case vector, list:
+		case pattern.Vector, pattern.List:
 			x.checkEtc()
-		case variable:
+		case pattern.Variable:
 			x.checkVariable(met)
 		}
 	}
@@ -33,7 +34,7 @@ func (p piece) checkPlace() {
 func (p piece) checkEtc() {
 	count := 0
 	for _, x := range elements(p.Datum) {
-		if isEtc(x) {
+		if pattern.IsEtc(x) {
 			count++
 		}
 	}
@@ -129,7 +130,7 @@ func (d depths) checkDepths(t api.Datum) {
 		if x.repeated && !d.repeats(x) {
 			guard.Fail(api.ErrNone)
 		}
-		if sortOf(x.Datum) == variable && d[x.Text] > x.inside {
+		if pattern.SortOf(x.Datum) == pattern.Variable && d[x.Text] > x.inside {
 			guard.Fail(api.ErrKind)
 		}
 	}

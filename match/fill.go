@@ -3,6 +3,7 @@ package match
 import (
 	"caracole/api"
 	"caracole/guard"
+	"caracole/pattern"
 	"caracole/plain"
 )
 
@@ -13,12 +14,12 @@ type builder struct {
 }
 
 func (b builder) build(d api.Datum) api.Datum {
-	switch sortOf(d) {
-	case variable:
+	switch pattern.SortOf(d) {
+	case pattern.Variable:
 		return b.variable(d)
-	case vector:
+	case pattern.Vector:
 		return api.Datum{Kind: api.Vec, Parts: b.elements(d.Parts)}
-	case list:
+	case pattern.List:
 		l, tail := plain.Elements(d)
 		l = b.elements(l)
 		return plain.List(b.build(tail), l...)
@@ -32,7 +33,7 @@ func (b builder) elements(l []api.Datum) []api.Datum {
 		switch {
 		case isRepeated(l, i):
 			out = append(out, b.repeated(x)...)
-		case !isEtc(x):
+		case !pattern.IsEtc(x):
 			out = append(out, b.build(x))
 		}
 	}
@@ -80,7 +81,7 @@ func (r *renamer) name(v api.Datum) api.Datum {
 }
 
 func (r *renamer) keep(part api.Datum) []api.Datum {
-	return []api.Datum{r.build(part), {Kind: api.Sym, Text: etc}}
+	return []api.Datum{r.build(part), {Kind: api.Sym, Text: pattern.Etc}}
 }
 
 // filler fills a template. What a variable stands for is known by its name and the depth that is left of it, so that a repetition is known beside the list that it is an element of.

@@ -8,51 +8,13 @@ import (
 	"caracole/api"
 	"caracole/datum"
 	"caracole/guard"
+	"caracole/pattern"
 	"caracole/plain"
 )
 
-// etc says of the part in front of it that it is repeated.
-const etc = "etc"
-
-// sort is a sort of pieces of patterns and templates.
-type sort int
-
-const (
-	literal  sort = iota // stands for itself
-	variable             // stands for any datum
-	ellipsis             // stands for nothing, but says etc
-	vector               // has parts
-	list                 // has elements, and something behind them
-)
-
-// sortOf returns the sort of a piece, which is a valid datum.
-func sortOf(d api.Datum) sort {
-	switch d.Kind {
-	case api.Sym:
-		return sortOfSymbol(d.Text)
-	case api.Vec:
-		return vector
-	case api.Pair:
-		return list
-	}
-	return literal
-}
-
-func sortOfSymbol(s string) sort {
-	switch {
-	case s == etc:
-		return ellipsis
-	case len(s) > 1 && s[0] == '?':
-		return variable
-	}
-	return literal
-}
-
-func isEtc(d api.Datum) bool { return sortOf(d) == ellipsis }
-
 // isRepeated says whether an element has an etc behind it.
 func isRepeated(l []api.Datum, i int) bool {
-	return i+1 < len(l) && isEtc(l[i+1]) && !isEtc(l[i])
+	return i+1 < len(l) && pattern.IsEtc(l[i+1]) && !pattern.IsEtc(l[i])
 }
 
 // piece is a piece of a pattern, or of a template.
@@ -82,7 +44,7 @@ func visit(p piece, yield func(piece) bool) bool {
 
 // elements returns the elements of a list, or the parts of a vector.
 func elements(d api.Datum) []api.Datum {
-	if sortOf(d) == list {
+	if pattern.SortOf(d) == pattern.List {
 		l, _ := plain.Elements(d)
 		return l
 	}
@@ -92,12 +54,12 @@ func elements(d api.Datum) []api.Datum {
 // parts returns the pieces of which one consists.
 func (p piece) parts() []piece {
 	var out, behind []piece
-	switch sortOf(p.Datum) {
-	case list:
+	switch pattern.SortOf(p.Datum) {
+	case pattern.List:
 		_, tail := plain.Elements(p.Datum)
 		behind = []piece{{Datum: tail, inside: p.inside, alone: true}}
 		fallthrough
-	case vector:
+	case pattern.Vector:
 		l := elements(p.Datum)
 		for i := range len(l) {
 			out = append(out, p.element(l, i))
@@ -107,14 +69,14 @@ func (p piece) parts() []piece {
 }
 
 func (p piece) element(l []api.Datum, i int) piece {
-	x := piece{Datum: l[i], inside: p.inside, repeated: isRepeated(l, i), alone: i == 0 || isEtc(l[i-1])}
+	x := piece{Datum: l[i], inside: p.inside, repeated: isRepeated(l, i), alone: i == 0 || pattern.IsEtc(l[i-1])}
 	if x.repeated {
 		x.inside++
 	}
 	return x
 }
 
-func (p piece) isLoneEtc() bool { return p.alone && isEtc(p.Datum) }
+func (p piece) isLoneEtc() bool { return p.alone && pattern.IsEtc(p.Datum) }
 
 func (p piece) name() string { return p.Text }
 
@@ -124,7 +86,7 @@ func (p piece) variable() api.MatchVar { return api.MatchVar{Name: p.Text, Depth
 func variables(d api.Datum) iter.Seq[piece] {
 	return func(yield func(piece) bool) {
 		for p := range pieces(d) {
-			if sortOf(p.Datum) == variable && !yield(p) {
+			if pattern.SortOf(p.Datum) == pattern.Variable && !yield(p) {
 				return
 			}
 		}
@@ -143,3 +105,19 @@ func ascending[T any](all iter.Seq[T], name func(T) string) []T {
 
 // own returns a datum that shares no memory with others, and fails if it has too many pieces.
 func own(d api.Datum) api.Datum { return guard.Get(datum.At(d, nil)) }
+
+// atWork returns a pattern at work. What stands for itself matches what is equal.
+func atWork(p api.Datum) pattern.Pattern { return pattern.Of(p, plain.Equal) }
+
+// bindsOf returns what the variables of a pattern stand for, and fails if the datum does not match.
+func bindsOf(p pattern.Pattern, vars []api.MatchVar, d api.Datum) []api.MatchBind {
+	if !p.Fits(d) {
+		guard.Fail(api.ErrNone)
+	}
+	return plain.Each(pattern.Binds(p, vars, d), ownBind)
+}
+
+func ownBind(b api.MatchBind) api.MatchBind {
+	b.Value = own(b.Value)
+	return b
+}

@@ -7,25 +7,26 @@ import (
 	"caracole/api"
 	"caracole/datum"
 	"caracole/guard"
+	"caracole/pattern"
 	"caracole/plain"
 )
 
 // rewriter is a rule at work.
 type rewriter struct {
-	pattern
+	pattern.Pattern
 	vars     []api.MatchVar
 	template api.Datum
 }
 
 func rulesAtWork(rules []api.MatchRule) []rewriter {
 	return plain.Each(rules, func(r api.MatchRule) rewriter {
-		return rewriter{pattern: atWork(r.Pattern), vars: vars(r.Pattern), template: r.Template}
+		return rewriter{Pattern: atWork(r.Pattern), vars: vars(r.Pattern), template: r.Template}
 	})
 }
 
 // rewrite returns what a rule makes of a datum that its pattern matches.
 func (r rewriter) rewrite(d api.Datum) api.Datum {
-	return fill(r.template, match(r.pattern, r.vars, d))
+	return fill(r.template, bindsOf(r.Pattern, r.vars, d))
 }
 
 // walker goes through the parts of a datum.
@@ -69,7 +70,7 @@ func first(rules []rewriter, d api.Datum) (s spot, ok bool) {
 search:
 	for path, part := range parts(d) {
 		for _, r := range rules {
-			if r.fits(part) {
+			if r.Fits(part) {
 				s, ok = spot{rewriter: r, path: slices.Clone(path), part: part}, true
 				break search
 			}
