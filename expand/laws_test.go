@@ -66,6 +66,7 @@ func withTerms(t api.Term, parts ...api.Term) api.Term {
 
 // TestCore is P6.6: a program without macros is its term, or has the error of it.
 func TestCore(t *testing.T) {
+	t.Parallel()
 	c := newChance(2)
 	for i := range 3000 {
 		d := sample.TermData(c.Term(i % 6))
@@ -89,7 +90,8 @@ func TestCore(t *testing.T) {
 
 // TestNames is P6.7: another name for what a template binds changes nothing, whatever names the program has.
 func TestNames(t *testing.T) {
-	for _, d := range programs(3, 30, 40) {
+	t.Parallel()
+	for _, d := range programs(3, 12, 40) {
 		for _, text := range []string{
 			"(macro q (((?x ?b) (let own ?x (if own own ?b)))) ..)",
 			"(macro q (((?x ?b) ((fn (own) (if own own ?b)) ?x))) ..)",
@@ -107,6 +109,7 @@ func TestNames(t *testing.T) {
 
 // TestOwn is P6.8: another name for what the program binds changes nothing, whatever names the templates have.
 func TestOwn(t *testing.T) {
+	t.Parallel()
 	around := in("(macro a (((?x ?b) (let t 1 (fn (?x) (t x ?x ?b)))) ((?b) (f ?b (quote t)))) ..)", "(macro b (((lit ?a ?b) (?a f)) ((?a ?b) (let ?a (fn (t f) (x t)) ?b))) ..)", "p1")
 	for _, text := range []string{
 		"(fn (own) (b own (a (own 5))))", "(let own 2 (a own (b y (own y))))", "(rec own (y) (a y (own (b own own))))", "(fn (own) (let z (a own own) (fn (own) (b z (own z)))))", "(b own (b own (a own (own 3))))", "(a own (own (a own own)))", "(fn (y) (macro own (((?a) (y ?a))) (a z (own (own z)))))", "(b own (macro k ((?a 5)) (k own own)))",
@@ -128,6 +131,7 @@ func TestOwn(t *testing.T) {
 
 // TestOwnMany is P6.8 for programs by chance. The name own is in no rule and in nothing that is quoted, and the name that it becomes is in rules alone.
 func TestOwnMany(t *testing.T) {
+	t.Parallel()
 	c := newChance(4)
 	done := 0
 	for range 700 {
@@ -167,6 +171,7 @@ func unquoted(d api.Datum) api.Datum {
 
 // TestParts is P6.9: the expansion of a form is the form of the expansions of its parts, and the steps add up.
 func TestParts(t *testing.T) {
+	t.Parallel()
 	all := programs(5, 600, 30)
 	r := sample.NewRandom(6)
 	for _, text := range []string{"(p1 p2)", "(p1)", "(p1 p2 p3)", "(if p1 p2 p3)", "(+ p1 p2)", "(car p1)", "(apply p1 p2)", "(handle p1 p2)", "(signal p1)", "(mark p1 p2)", "(emit p1)", "(fn (own) p1)", "(let own p1 p2)", "(rec own (own2 own3) p1)", "(f (marks) p1 (quote if) (cons p2 (fn () (let own 2 p3))))"} {
@@ -193,8 +198,9 @@ func TestParts(t *testing.T) {
 
 // TestUnused is P6.10: a macro that is not used changes nothing.
 func TestUnused(t *testing.T) {
+	t.Parallel()
 	c := newChance(7)
-	for i := range 400 {
+	for i := range 200 {
 		c.faults = i%4 == 0
 		d := c.program()
 		for _, text := range []string{"(macro unused () p1)", "(macro unused (((?a etc) (x t ?a etc (unused)))) p1)", "(macro unused ((?x (let x ?x (fn (t) (unused t))))) p1)"} {
@@ -207,6 +213,7 @@ func TestUnused(t *testing.T) {
 
 // TestPreludeTerms is P6.11: the macros of the prelude are the terms that they should be, with any programs as parts.
 func TestPreludeTerms(t *testing.T) {
+	t.Parallel()
 	all := append(programs(8, 300, 30), readAll("(or t x)", "(lets ((t 1) (x t)) (and t x))", "(list t own)", "(cond (t x) (else t))", "(seq t (let t 1 t))", "(let or 1 (or 2))", "(fn (else) (cond (else t)))")...)
 	r := sample.NewRandom(9)
 	for _, x := range []struct {
@@ -251,8 +258,9 @@ func TestPreludeTerms(t *testing.T) {
 
 // TestSteps is P6.12: with as many steps as there are the term is the same, with one less it is ErrLimit.
 func TestSteps(t *testing.T) {
+	t.Parallel()
 	met := 0
-	for _, d := range programs(10, 1500, 60) {
+	for _, d := range programs(10, 600, 60) {
 		want, steps := must(t, d)
 		for _, most := range []int{steps, steps + 1, 1000} {
 			if got := told(expand.Expand(d, most)); got != told(want, steps, api.OK) {
@@ -267,7 +275,7 @@ func TestSteps(t *testing.T) {
 			t.Error(show(d), l, e)
 		}
 	}
-	if met < 500 {
+	if met < 300 {
 		t.Error(met)
 	}
 }
@@ -285,8 +293,9 @@ func errorsExpand(t *testing.T, d api.Datum, most int, want api.Errno) {
 
 // TestFree is P6.13: the free names of the term are texts of symbols of the program.
 func TestFree(t *testing.T) {
+	t.Parallel()
 	met := 0
-	for _, d := range programs(11, 1500, 60) {
+	for _, d := range programs(11, 800, 60) {
 		x, _ := must(t, d)
 		free, _ := term.Free(x)
 		known := texts(d)
@@ -304,6 +313,7 @@ func TestFree(t *testing.T) {
 
 // TestPlain is P6.14: if no name of a template is one of the program, the plain expansion is the same.
 func TestPlain(t *testing.T) {
+	t.Parallel()
 	macros := []struct{ name, rules, patterns string }{
 		{"q1", "(((?a ?b) (let o1 ?a (if o1 o1 ?b))) ((?x ?a ?b) (fn (?x o2) (?a o2 ?x ?b))))", "((?a ?b) (?x ?a ?b))"},
 		{"q2", "((((?a etc) ?b) (let o3 (fn (o4) (o4 ?b)) (o3 ?a etc))) ((?a) ((rec o5 (o6) (o5 ?a o6)) ?a)))", "(((?a etc) ?b) (?a))"},
@@ -319,7 +329,7 @@ func TestPlain(t *testing.T) {
 	}
 	c.closed = true
 	met := 0
-	for range 2000 {
+	for range 900 {
 		d := with(read(around), c.datum(4))
 		want, steps, e := expand.Expand(d, 200)
 		if got := told(expand.Plain(d, 200)); got != told(want, steps, e) {
@@ -332,15 +342,16 @@ func TestPlain(t *testing.T) {
 			met += steps
 		}
 	}
-	if met < 2000 {
+	if met < 1000 {
 		t.Error(met)
 	}
 }
 
 // TestShadowed is P6.15: a macro that is defined again inside, or whose name is bound, does not matter there.
 func TestShadowed(t *testing.T) {
+	t.Parallel()
 	c := newChance(13)
-	for i := range 250 {
+	for i := range 120 {
 		c.faults = i%4 == 0
 		d := c.program()
 		for _, inside := range []string{"(fn (m) p1)", "(fn (x m y) p1)", "(let m (f x) p1)", "(rec m (x) p1)", "(rec f (m) p1)", "(macro m (((?a) (f (m ?a ?a))) (() 5)) p1)", "(fn (x) (let m x (fn (m) p1)))"} {

@@ -56,6 +56,7 @@ func (m memory) slice(t *testing.T, first any) {
 
 // TestMemory: no result shares memory with an argument, with another one, nor with itself (R4).
 func TestMemory(t *testing.T) {
+	t.Parallel()
 	twice := read("(macro m (((?a) (f (quote ?a) (quote ?a) (quote (1 #(2)))))) (g (m (x #(y))) (m (x #(y))) (quote (3 . 4)) (fn (x y) x)))")
 	for _, d := range append(programs(20, 300, 40), twice) {
 		m := memory{}
@@ -89,6 +90,7 @@ func everything(d api.Datum, most int) []string {
 
 // TestArgumentsStay: arguments are not changed, not even the memory behind them, and calls with the same ones return the same (R2, R4).
 func TestArgumentsStay(t *testing.T) {
+	t.Parallel()
 	c := newChance(21)
 	for i := range 300 {
 		c.faults = i%3 == 0
@@ -111,6 +113,7 @@ func TestArgumentsStay(t *testing.T) {
 
 // TestEmptyAndNil: a nil slice and an empty one mean the same (R4).
 func TestEmptyAndNil(t *testing.T) {
+	t.Parallel()
 	var hollow func(d api.Datum) api.Datum
 	hollow = func(d api.Datum) api.Datum {
 		parts := []api.Datum{}
@@ -146,14 +149,15 @@ func wild(r *sample.Random, depth int) api.Datum {
 
 // TestAnyValue: functions return whatever their arguments are, with zero values beside an error, and with valid ones otherwise (P1, R3, R5).
 func TestAnyValue(t *testing.T) {
+	t.Parallel()
 	c := newChance(23)
 	c.faults = true
 	ring := vec(sym("x"), num(1))
 	ring.Parts[1] = ring
-	for i := range 3000 {
+	for i := range 1500 {
 		d := wild(c.Random, 4)
 		switch {
-		case i%1000 == 0:
+		case i%500 == 0:
 			d = ring
 		case i%2 == 0:
 			d = c.program()
@@ -204,6 +208,7 @@ func errorsAtLast(t *testing.T, d api.Datum, most int) {
 
 // TestDeep: expansions that are nested as deep as there can be come to their end (P1).
 func TestDeep(t *testing.T) {
+	t.Parallel()
 	for _, x := range []struct {
 		front, back string
 		times       int
