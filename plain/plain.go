@@ -29,6 +29,15 @@ func CopyTerm(t api.Term) api.Term {
 	return api.Term{Op: t.Op, Name: t.Name, Names: slices.Clone(t.Names), Data: Copy(t.Data), Args: Each(t.Args, CopyTerm)}
 }
 
+// Pieces returns of how many pieces a datum consists.
+func Pieces(d api.Datum) int {
+	n := 1
+	for i := range len(d.Parts) {
+		n += Pieces(d.Parts[i])
+	}
+	return n
+}
+
 // atom is what a datum is but for its parts.
 type atom struct {
 	kind, num int

@@ -73,3 +73,11 @@ func TestLists(t *testing.T) {
 		t.Error(l, tail)
 	}
 }
+
+func TestPieces(t *testing.T) {
+	for text, want := range map[string]int{"()": 1, "(1 2)": 5, "#(1 (2) a)": 6, `"ab"`: 1} {
+		if got := Pieces(sample.Read(text)); got != want {
+			t.Error(text, got)
+		}
+	}
+}

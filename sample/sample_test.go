@@ -1,6 +1,7 @@
 package sample
 
 import (
+	"slices"
 	"testing"
 
 	"caracole/api"
@@ -92,4 +93,58 @@ func TestRandomTerms(t *testing.T) {
 	if len(met) != api.Emit+1 {
 		t.Error(met)
 	}
+}
+
+// TestMemory: memory is found to be shared just if it is.
+func TestMemory(t *testing.T) {
+	x := Term("(f (fn (x) (quote (1 #(2)))))")
+	for i, y := range []api.Term{x, {Args: x.Args}, {Args: []api.Term{{Names: x.Args[1].Names}}}, {Data: x.Args[1].Args[0].Data}, {Data: Pair(Num(0), x.Args[1].Args[0].Data)}, {Data: api.Datum{Parts: x.Args[1].Args[0].Data.Parts[:0]}}} {
+		m := Memory{}
+		if !m.TermList([]api.Term{x}) || m.Terms(y) {
+			t.Error(i)
+		}
+	}
+	m := Memory{}
+	l, d := []int{1}, []api.Datum{Read("(1 2)")}
+	if !m.Terms(x, CopyTerm(x)) || !m.DataList(d) || !m.Numbers(l) || !m.Numbers(nil) || !m.Names([]string{""}) || m.Numbers(l) || m.Data(d...) || m.DataList(d[:0]) {
+		t.Error("memory")
+	}
+	if h := HollowTerm(x); !SameTerm(h, x) || !m.Terms(h) || h.Data.Parts == nil || h.Args[1].Args[0].Data.Parts[0].Parts == nil {
+		t.Error(TermText(h))
+	}
+}
+
+// TestProgram: programs are closed, and have any Op.
+func TestProgram(t *testing.T) {
+	r, again := NewRandom(5), NewRandom(5)
+	met := map[int]bool{}
+	for i := range 400 {
+		x := r.Program(i % 6)
+		if !SameTerm(x, again.Program(i%6)) {
+			t.Error(TermText(x))
+		}
+		for _, path := range TermPaths(x) {
+			part := FollowTerm(x, path)
+			met[part.Op] = true
+			if part.Op == api.Var && !boundAt(x, path, part.Name) {
+				t.Error(TermText(x), part.Name)
+			}
+		}
+	}
+	if len(met) != api.Emit+1 {
+		t.Error(met)
+	}
+}
+
+// boundAt says whether a name is bound where a path leads to.
+func boundAt(t api.Term, path []int, name string) bool {
+	bound := false
+	for _, i := range path {
+		known := append(slices.Clone(t.Names), t.Name)
+		if t.Op == api.Fn || t.Op == api.Rec || t.Op == api.Let && i == 1 {
+			bound = bound || slices.Contains(known, name)
+		}
+		t = t.Args[i]
+	}
+	return bound
 }

@@ -40,7 +40,7 @@ func (r reader) term(d api.Datum) api.Term {
 	case api.Sym:
 		return api.Term{Op: api.Var, Name: r.name(d)}
 	case api.Pair:
-		return r.list(elements(d, api.ErrForm))
+		return r.list(elements(d))
 	case api.Vec:
 		guard.Fail(api.ErrForm)
 	}
@@ -72,7 +72,7 @@ func (r reader) function(t *api.Term, front []api.Datum) {
 	if t.Op == api.Rec {
 		r.named(t, front)
 	}
-	params := elements(front[len(front)-1], api.ErrForm)
+	params := elements(front[len(front)-1])
 	upTo(api.FnParams).need(len(params))
 	for _, p := range params {
 		name := r.name(p)
@@ -90,11 +90,11 @@ func (r reader) name(d api.Datum) string {
 	return d.Text
 }
 
-// elements returns the elements of a list as they stand in it, and fails with an error if d is none.
-func elements(d api.Datum, e api.Errno) []api.Datum {
+// elements returns the elements of a list as they stand in it, and fails if a datum is none.
+func elements(d api.Datum) []api.Datum {
 	l, tail := plain.Elements(d)
 	if tail.Kind != api.Nil {
-		guard.Fail(e)
+		guard.Fail(api.ErrForm)
 	}
 	return l
 }

@@ -3,6 +3,7 @@ package term
 import (
 	"caracole/api"
 	"caracole/datum"
+	"caracole/delta"
 	"caracole/guard"
 )
 
@@ -44,41 +45,13 @@ func argumentsOf(op int, name string) span {
 	return arguments[op]
 }
 
-// kind is a kind of operations.
-type kind int
-
-const (
-	noOperation kind = iota
-	ofNumbers        // they take two numbers
-	ofTwo            // they take any two data
-	question         // they ask of what kind a datum is
-	ofOne            // all others take one datum
-)
-
-func kindOf(op string) kind {
-	switch op {
-	case "+", "-", "*", "quo", "rem", "<":
-		return ofNumbers
-	case "eq", "cons":
-		return ofTwo
-	case "pair?", "null?", "num?", "sym?", "str?", "bool?", "vec?", "fn?":
-		return question
-	case "car", "cdr", "not", "fail", "chars", "string", "name", "symbol", "vector", "items":
-		return ofOne
-	}
-	return noOperation
-}
-
 // takes returns how many arguments an operation takes, and fails unless it is one.
 func takes(op string) int {
-	switch kindOf(op) {
-	case ofNumbers, ofTwo:
-		return 2
-	case question, ofOne:
-		return 1
+	n := delta.Takes(op)
+	if n == 0 {
+		guard.Fail(api.ErrName)
 	}
-	guard.Fail(api.ErrName)
-	return 0
+	return n
 }
 
 // vocabulary has the words of all forms, and the Op of each.
@@ -100,7 +73,7 @@ func (v vocabulary) op(first api.Datum) int {
 		if op, ok := v[first.Text]; ok {
 			return op
 		}
-		if kindOf(first.Text) != noOperation {
+		if delta.Takes(first.Text) > 0 {
 			return api.Prim
 		}
 	}

@@ -1,4 +1,5 @@
-package term
+// Package delta has the operations on data, for valid data: layer 4 says what they are, and the layers that run programs use them on data that they have made themselves.
+package delta
 
 import (
 	"caracole/api"
@@ -7,8 +8,44 @@ import (
 	"caracole/plain"
 )
 
-// operate returns what an operation returns for valid data. It may share memory with them, and be too large, or no valid symbol or string.
-func operate(op string, args []api.Datum) api.Datum {
+// kind is a kind of operations.
+type kind int
+
+const (
+	noOperation kind = iota
+	ofNumbers        // they take two numbers
+	ofTwo            // they take any two data
+	question         // they ask of what kind a datum is
+	ofOne            // all others take one datum
+)
+
+func kindOf(op string) kind {
+	switch op {
+	case "+", "-", "*", "quo", "rem", "<":
+		return ofNumbers
+	case "eq", "cons":
+		return ofTwo
+	case "pair?", "null?", "num?", "sym?", "str?", "bool?", "vec?", "fn?":
+		return question
+	case "car", "cdr", "not", "fail", "chars", "string", "name", "symbol", "vector", "items":
+		return ofOne
+	}
+	return noOperation
+}
+
+// Takes returns how many arguments an operation takes, and 0 if there is no such operation.
+func Takes(op string) int {
+	switch kindOf(op) {
+	case ofNumbers, ofTwo:
+		return 2
+	case question, ofOne:
+		return 1
+	}
+	return 0
+}
+
+// Of returns what an operation returns for as many valid data as it takes, or fails with its error. The result may share memory with them.
+func Of(op string, args ...api.Datum) api.Datum {
 	switch kindOf(op) {
 	case ofNumbers:
 		a := numberOf(args[0])
@@ -17,7 +54,7 @@ func operate(op string, args []api.Datum) api.Datum {
 	case ofTwo:
 		return ofBoth(op, args[0], args[1])
 	case question:
-		return truth(args[0].Kind == kindAsked(op))
+		return Truth(args[0].Kind == kindAsked(op))
 	}
 	return ofOnly(op, args[0])
 }
@@ -56,7 +93,7 @@ func reckoning(op string) func(a, b whole) api.Datum {
 func (a whole) plus(b whole) api.Datum  { return (a + b).datum() }
 func (a whole) minus(b whole) api.Datum { return (a - b).datum() }
 func (a whole) times(b whole) api.Datum { return (a * b).datum() }
-func (a whole) less(b whole) api.Datum  { return truth(a < b) }
+func (a whole) less(b whole) api.Datum  { return Truth(a < b) }
 
 func (a whole) quotient(b whole) api.Datum  { return (a / b.divisor()).datum() }
 func (a whole) remainder(b whole) api.Datum { return (a % b.divisor()).datum() }
@@ -77,7 +114,8 @@ func (a whole) datum() api.Datum {
 
 func number(n int) api.Datum { return api.Datum{Kind: api.Num, Num: n} }
 
-func truth(is bool) api.Datum {
+// Truth returns the boolean that says whether something is so.
+func Truth(is bool) api.Datum {
 	d := api.Datum{Kind: api.Bool}
 	if is {
 		d.Num = 1
@@ -110,9 +148,23 @@ func kindAsked(op string) int {
 
 func ofBoth(op string, a, b api.Datum) api.Datum {
 	if op == "eq" {
-		return truth(plain.Equal(a, b))
+		return Truth(plain.Equal(a, b))
 	}
-	return plain.List(b, a)
+	return notLarge(plain.List(b, a))
+}
+
+// notLarge fails if a datum has too many pieces.
+func notLarge(d api.Datum) api.Datum {
+	if plain.Pieces(d) > api.DatumSize {
+		guard.Fail(api.ErrLarge)
+	}
+	return d
+}
+
+// allowed fails unless the text of a datum is allowed.
+func allowed(d api.Datum) api.Datum {
+	guard.Check(datum.Check(d))
+	return d
 }
 
 func ofOnly(op string, d api.Datum) api.Datum {
@@ -124,7 +176,7 @@ func ofOnly(op string, d api.Datum) api.Datum {
 		needKind(d, api.Pair)
 		return d.Parts[1]
 	case "not":
-		return truth(plain.Equal(d, truth(false)))
+		return Truth(plain.Equal(d, Truth(false)))
 	case "fail":
 		fail(d)
 	case "chars":
@@ -136,12 +188,12 @@ func ofOnly(op string, d api.Datum) api.Datum {
 		return api.Datum{Kind: api.Str, Text: d.Text}
 	case "symbol":
 		needKind(d, api.Str)
-		return api.Datum{Kind: api.Sym, Text: d.Text}
+		return allowed(api.Datum{Kind: api.Sym, Text: d.Text})
 	case "vector":
-		return api.Datum{Kind: api.Vec, Parts: elements(d, api.ErrKind)}
+		return api.Datum{Kind: api.Vec, Parts: elements(d)}
 	}
 	needKind(d, api.Vec)
-	return plain.List(api.Datum{}, d.Parts...)
+	return notLarge(plain.List(api.Datum{}, d.Parts...))
 }
 
 func fail(d api.Datum) {
@@ -162,7 +214,7 @@ func chars(d api.Datum) api.Datum {
 }
 
 func text(d api.Datum) api.Datum {
-	l := elements(d, api.ErrKind)
+	l := elements(d)
 	for _, x := range l {
 		needKind(x, api.Num)
 	}
@@ -172,8 +224,12 @@ func text(d api.Datum) api.Datum {
 		}
 	}
 	bytes := plain.Each(l, func(x api.Datum) byte { return byte(x.Num) })
-	return api.Datum{Kind: api.Str, Text: string(bytes)}
+	return allowed(api.Datum{Kind: api.Str, Text: string(bytes)})
 }
 
-// own returns a datum that shares no memory with others, and fails if it is not valid.
-func own(d api.Datum) api.Datum { return guard.Get(datum.At(d, nil)) }
+// elements returns the elements of a list as they stand in it, and fails if a datum is none.
+func elements(d api.Datum) []api.Datum {
+	l, tail := plain.Elements(d)
+	needKind(tail, api.Nil)
+	return l
+}
