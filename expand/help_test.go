@@ -15,17 +15,11 @@ var (
 	num, sym, vec, wide, zeros = sample.Num, sample.Sym, sample.Vec, sample.Wide, sample.Zeros
 	show, read, readAll        = sample.Show, sample.Read, sample.ReadAll
 	same, allPaths, follow     = sample.Same, sample.Paths, sample.Follow
+	toldOr, toldBool           = sample.Told, sample.ToldBool
+	toldDatum, size            = sample.ToldDatum, sample.TermSize
 )
 
 func list(l ...api.Datum) api.Datum { return sample.List(api.Datum{}, l...) }
-
-// toldOr is what a function returns as a text, or its error.
-func toldOr(s string, e api.Errno) string {
-	if e != api.OK {
-		return "error " + strconv.Itoa(int(e))
-	}
-	return s
-}
 
 // told is what Expand and Plain return.
 func told(t api.Term, steps int, e api.Errno) string {
@@ -33,10 +27,6 @@ func told(t api.Term, steps int, e api.Errno) string {
 }
 
 func toldNames(l []string, e api.Errno) string { return toldOr(strings.Join(l, " "), e) }
-
-func toldBool(b bool, e api.Errno) string { return toldOr(strconv.FormatBool(b), e) }
-
-func toldDatum(d api.Datum, e api.Errno) string { return toldOr(show(d), e) }
 
 // in puts a program inside of forms: each text stands around all that follow, with .. where these are.
 func in(texts ...string) string {
@@ -75,15 +65,6 @@ func pieces(d api.Datum) int {
 	n := 1
 	for _, p := range d.Parts {
 		n += pieces(p)
-	}
-	return n
-}
-
-// size is of how many terms a term consists.
-func size(t api.Term) int {
-	n := 1
-	for _, a := range t.Args {
-		n += size(a)
 	}
 	return n
 }

@@ -17,19 +17,10 @@ var (
 	show, showAll          = sample.Show, sample.ShowAll
 	read, readAll          = sample.Read, sample.ReadAll
 	same, allPaths, follow = sample.Same, sample.Paths, sample.Follow
+	toldOr, told           = sample.Told, sample.ToldDatum
 )
 
 func list(l ...api.Datum) api.Datum { return sample.List(api.Datum{}, l...) }
-
-// toldOr is what a function returns as a text, or its error.
-func toldOr(s string, e api.Errno) string {
-	if e != api.OK {
-		return "error " + strconv.Itoa(int(e))
-	}
-	return s
-}
-
-func told(d api.Datum, e api.Errno) string { return toldOr(show(d), e) }
 
 // toldSteps is a datum, and the number of a rule or of steps.
 func toldSteps(d api.Datum, n int, e api.Errno) string {

@@ -16,7 +16,10 @@ var (
 	num, sym, vec, wide, zeros  = sample.Num, sample.Sym, sample.Vec, sample.Wide, sample.Zeros
 	show, read                  = sample.Show, sample.Read
 	parse, text, quote, nameVar = sample.Term, sample.TermText, sample.Quote, sample.Var
-	same                        = sample.SameTerm
+	same, size, terms           = sample.SameTerm, sample.TermSize, sample.Bush
+	call, prim, function        = sample.Call, sample.Prim, sample.Function
+	toldOr, told, toldRun       = sample.Told, sample.ToldTerm, sample.ToldRun
+	toldBool, toldDatum         = sample.ToldBool, sample.ToldDatum
 )
 
 func must[T any](t *testing.T) func(x T, e api.Errno) T {
@@ -28,20 +31,6 @@ func must[T any](t *testing.T) func(x T, e api.Errno) T {
 		return x
 	}
 }
-
-// toldOr is what a function returns as a text, or its error.
-func toldOr(s string, e api.Errno) string {
-	if e != api.OK {
-		return "error " + strconv.Itoa(int(e))
-	}
-	return s
-}
-
-func told(t api.Term, e api.Errno) string { return toldOr(text(t), e) }
-
-func toldBool(b bool, e api.Errno) string { return toldOr(strconv.FormatBool(b), e) }
-
-func toldDatum(d api.Datum, e api.Errno) string { return toldOr(show(d), e) }
 
 func numbers(l []int) string {
 	var words []string
@@ -65,14 +54,6 @@ func ruleName(n int) string {
 	return []string{"call", "apply", "if", "let", "prim", "handle", "signal", "mark", "marks", "emit"}[n]
 }
 
-// put is what was put out, behind a text.
-func put(s string, out []api.Datum) string {
-	if len(out) > 0 {
-		s += " out " + sample.ShowAll(out)
-	}
-	return s
-}
-
 func toldStep(s api.RuleStep, e api.Errno) string {
 	got := text(s.Next)
 	if s.Err != api.OK {
@@ -81,21 +62,12 @@ func toldStep(s api.RuleStep, e api.Errno) string {
 			got += " with " + text(s.Next)
 		}
 	}
-	return toldOr(put(ruleName(s.Rule)+" "+got, s.Out), e)
+	return toldOr(ruleName(s.Rule)+" "+got+sample.PutOut(s.Out), e)
 }
 
-func toldRun(r api.Result, steps int, e api.Errno) string {
-	got := show(r.Value)
-	if r.Err != api.OK {
-		got = toldOr("", r.Err)
-		if !sample.Same(r.Value, api.Datum{}) {
-			got += " with " + show(r.Value)
-		}
-	}
-	return toldOr(put(got, r.Out)+" in "+strconv.Itoa(steps), e)
+func toldAfter(t api.Term, out []api.Datum, e api.Errno) string {
+	return toldOr(text(t)+sample.PutOut(out), e)
 }
-
-func toldAfter(t api.Term, out []api.Datum, e api.Errno) string { return toldOr(put(text(t), out), e) }
 
 func toldTrace(l []int, e api.Errno) string {
 	var words []string
@@ -113,57 +85,11 @@ func everything(t, s api.Term, path []int, most int) []string {
 	}
 }
 
-func call(f api.Term, args ...api.Term) api.Term {
-	return api.Term{Op: api.App, Args: append([]api.Term{f}, args...)}
-}
-
-func prim(name string, args ...api.Term) api.Term {
-	return api.Term{Op: api.Prim, Name: name, Args: args}
-}
-
-func function(name string, body api.Term) api.Term {
-	return api.Term{Op: api.Fn, Names: []string{name}, Args: []api.Term{body}}
-}
-
-// size is of how many terms a term consists.
-func size(t api.Term) int {
-	n := 1
-	for _, a := range t.Args {
-		n += size(a)
-	}
-	return n
-}
-
-// terms is a closed term of n terms, which is not deep: half of the additions in it are on each side.
-func terms(n int) api.Term {
-	switch {
-	case n == 1:
-		return parse("1")
-	case n%2 == 0:
-		return prim("not", terms(n-1))
-	}
-	left := (n-1)/4*2 + 1
-	return prim("+", terms(left), terms(n-1-left))
-}
-
 // value is a function of n terms.
 func value(n int) api.Term { return function("y", terms(n-1)) }
 
 // programs are many programs by chance, and what becomes of them on the way.
-func programs(seed uint64, n int) []api.Term {
-	r := sample.NewRandom(seed)
-	var l []api.Term
-	for i := range n {
-		x := r.Program(i % 6)
-		if i%3 == 0 {
-			x, _, _ = rule.After(x, r.Below(12))
-		}
-		if size(x) < 500 {
-			l = append(l, x)
-		}
-	}
-	return l
-}
+func programs(seed uint64, n int) []api.Term { return sample.Programs(seed, n, 500, rule.After) }
 
 // values are closed terms that are values.
 func values() []api.Term {

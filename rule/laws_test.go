@@ -69,28 +69,13 @@ func TestParts(t *testing.T) {
 	}
 }
 
-// renamed is a term with longer names for all of its own.
-func renamed(t api.Term) api.Term {
-	t = sample.CopyTerm(t)
-	if t.Op != api.Prim && t.Name != "" {
-		t.Name = "q" + t.Name
-	}
-	for i := range t.Names {
-		t.Names[i] = "q" + t.Names[i]
-	}
-	for i := range t.Args {
-		t.Args[i] = renamed(t.Args[i])
-	}
-	return t
-}
-
 // TestNames: a term with other names runs in the same way (P7.8).
 func TestNames(t *testing.T) {
 	t.Parallel()
 	for i, x := range programs(23, 1500) {
 		n := i % 40
 		canon := must[api.Term](t)(term.Canon(x))
-		for _, y := range []api.Term{canon, renamed(x), renamed(renamed(canon))} {
+		for _, y := range []api.Term{canon, sample.Renamed(x), sample.Renamed(sample.Renamed(canon))} {
 			a, b := toldRun(rule.Run(x, 150)), toldRun(rule.Run(y, 150))
 			c, d := toldTrace(rule.Trace(x, 150)), toldTrace(rule.Trace(y, 150))
 			if a != b || c != d {

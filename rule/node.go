@@ -5,6 +5,7 @@ import (
 	"slices"
 
 	"caracole/api"
+	"caracole/core"
 	"caracole/plain"
 )
 
@@ -48,26 +49,10 @@ func (n *node) with(arg int, part *node) *node {
 	return made(n.Term, parts...)
 }
 
-// binds says whether a name is bound in an argument.
-func (n *node) binds(arg int, name string) bool {
-	switch n.Op {
-	case api.Let:
-		return arg == 1 && name == n.Name
-	case api.Rec:
-		if name == n.Name {
-			return true
-		}
-		fallthrough
-	case api.Fn:
-		return slices.Contains(n.Names, name)
-	}
-	return false
-}
-
 // unbound returns the names that are free in an argument, and not bound there.
 func (n *node) unbound(arg int) []string {
 	free := n.parts[arg].free
-	bound := func(name string) bool { return n.binds(arg, name) }
+	bound := func(name string) bool { return core.Binds(n.Term, arg, name) }
 	if !slices.ContainsFunc(free, bound) {
 		return free
 	}
@@ -87,25 +72,12 @@ func union(a, b []string) []string {
 	return slices.Compact(all)
 }
 
-// early returns how many arguments are evaluated before the effect of the node itself.
-func (n *node) early() int {
-	count := 0
-	switch n.Op {
-	case api.App, api.Prim, api.Apply, api.Handle, api.Signal, api.Mark, api.Emit:
-		count = len(n.parts) - 1
-		fallthrough
-	case api.If, api.Let:
-		count++
-	}
-	return count
-}
-
 // itself says that the way of a node ends with it.
 const itself = -1
 
 // next returns in which argument the place of a node is that is no value.
 func (n *node) next() int {
-	return slices.IndexFunc(n.parts[:n.early()], func(p *node) bool { return !p.value })
+	return slices.IndexFunc(n.parts[:core.Early(n.Op, len(n.parts))], func(p *node) bool { return !p.value })
 }
 
 // inward yields the terms that have the place of a node in them, from the outside to the place, and in which argument each one has it. A value has no place.

@@ -4,6 +4,7 @@ import (
 	"slices"
 
 	"caracole/api"
+	"caracole/core"
 	"caracole/side"
 )
 
@@ -33,7 +34,7 @@ func (x exchange) of(name string) *node {
 
 // under returns what is replaced in an argument, which is all that is not bound there.
 func (x exchange) under(n *node, arg int) exchange {
-	bound := func(b bond) bool { return n.binds(arg, b.name) }
+	bound := func(b bond) bool { return core.Binds(n.Term, arg, b.name) }
 	if !slices.ContainsFunc(x, bound) {
 		return x
 	}

@@ -4,7 +4,7 @@ import (
 	"slices"
 
 	"caracole/api"
-	"caracole/delta"
+	"caracole/core"
 	"caracole/guard"
 	"caracole/plain"
 )
@@ -57,13 +57,12 @@ func rules() map[int]rule {
 func (call) becomes(n *node) *node { return n.parts[0].called(n.parts[1:]) }
 
 func (apply) becomes(n *node) *node {
-	args := n.parts[1].elements()
-	return n.parts[0].called(args)
+	args := core.Elements(n.parts[1])
+	return n.parts[0].called(plain.Each(args, nodeFor))
 }
 
 func (choice) becomes(n *node) *node {
-	test := n.parts[0]
-	if test.Op == api.Quote && plain.Equal(test.Data, delta.Truth(false)) {
+	if core.IsFalse(n.parts[0]) {
 		return n.parts[2]
 	}
 	return n.parts[1]
@@ -75,11 +74,8 @@ func (local) becomes(n *node) *node {
 }
 
 func (prim) becomes(n *node) *node {
-	if !allData(n.parts) {
-		return operationOf(n.Name).on(n.parts)
-	}
-	args := plain.Each(n.parts, func(v *node) api.Datum { return v.Data })
-	return quoted(delta.Of(n.Name, args...))
+	values := plain.Each(n.parts, (*node).asValue)
+	return nodeFor(core.Operate(n.Name, values...))
 }
 
 func (finish) becomes(n *node) *node { return n.parts[1] }
@@ -99,11 +95,9 @@ func (marks) rewrite(c *course) {
 	around := c.marks()
 	pieces := 1
 	for _, m := range around {
-		pieces += 1 + m.pieces()
+		pieces += 1 + m.Pieces()
 	}
-	if pieces > api.DatumSize {
-		guard.Fail(api.ErrLarge)
-	}
+	core.Limit(pieces)
 	c.here = list(around...)
 }
 

@@ -4,7 +4,7 @@ import (
 	"slices"
 
 	"caracole/api"
-	"caracole/guard"
+	"caracole/core"
 	"caracole/plain"
 )
 
@@ -17,7 +17,7 @@ func (n *node) judge() {
 		n.value = true
 	case api.Prim:
 		if n.Name == pairing && n.parts[0].value && n.parts[1].value && !allData(n.parts) {
-			n.extent = 1 + n.parts[0].pieces() + n.parts[1].pieces()
+			n.extent = 1 + n.parts[0].Pieces() + n.parts[1].Pieces()
 			n.value = n.extent <= api.DatumSize
 		}
 	}
@@ -30,8 +30,19 @@ func allData(values []*node) bool {
 	return !slices.ContainsFunc(values, func(v *node) bool { return v.Op != api.Quote })
 }
 
-// pieces returns of how many pieces a value consists.
-func (n *node) pieces() int {
+// Datum returns the datum that a value is, if it is one.
+func (n *node) Datum() (d api.Datum, ok bool) { return n.Data, n.Op == api.Quote }
+
+// Halves returns both parts of a value that is a pair, but no datum.
+func (n *node) Halves() (first, second core.Value, ok bool) {
+	if n.Op != api.Prim {
+		return nil, nil, false
+	}
+	return n.parts[0], n.parts[1], true
+}
+
+// Pieces returns of how many pieces a value consists.
+func (n *node) Pieces() int {
 	switch n.Op {
 	case api.Quote:
 		return plain.Pieces(n.Data)
@@ -42,14 +53,18 @@ func (n *node) pieces() int {
 }
 
 // show returns what a value is shown as.
-func (n *node) show() api.Datum {
-	switch n.Op {
-	case api.Quote:
-		return plain.Copy(n.Data)
-	case api.Prim:
-		return api.Datum{Kind: api.Pair, Parts: plain.Each(n.parts, (*node).show)}
+func (n *node) show() api.Datum { return core.Show(n) }
+
+// asValue returns a node as a value, which it has to be.
+func (n *node) asValue() core.Value { return n }
+
+// nodeFor returns the node of what was made of values that are nodes.
+func nodeFor(v core.Value) *node {
+	if n, ok := v.(*node); ok {
+		return n
 	}
-	return api.Datum{Kind: api.Sym, Text: "function"}
+	d, _ := v.Datum()
+	return quoted(d)
 }
 
 // join returns the pair of two values.
@@ -69,37 +84,12 @@ func list(values ...*node) *node {
 	return all
 }
 
-// elements returns the elements of a proper list, and fails if a value is none.
-func (n *node) elements() []*node {
-	var l []*node
-	for n.Op == api.Prim {
-		l = append(l, n.parts[0])
-		n = n.parts[1]
-	}
-	needKind(n.Op == api.Quote)
-	data, tail := plain.Elements(n.Data)
-	needKind(tail.Kind == api.Nil)
-	return append(l, plain.Each(data, quoted)...)
-}
-
-// needKind fails unless something is of the right kind.
-func needKind(is bool) {
-	if !is {
-		guard.Fail(api.ErrKind)
-	}
-}
-
 func (n *node) isFunction() bool { return n.Op == api.Fn || n.Op == api.Rec }
 
 // called returns the body of a function with values in the place of its parameters, or fails if it cannot be called with them.
 func (n *node) called(values []*node) *node {
-	needKind(n.isFunction())
-	switch {
-	case len(values) < len(n.Names):
-		guard.Fail(api.ErrFew)
-	case len(values) > len(n.Names):
-		guard.Fail(api.ErrMany)
-	}
+	core.NeedKind(n.isFunction())
+	core.NeedArgs(len(n.Names), len(values))
 	var x exchange
 	if n.Op == api.Rec {
 		x = x.and(n.Name, n)

@@ -32,6 +32,22 @@ func (r *Random) Program(depth int) api.Term {
 	return api.Term{Op: api.Handle, Args: []api.Term{handler, r.program(depth, sort, nil)}}
 }
 
+// Programs are many programs of fewer than so many terms, and in the place of some what they are after some steps.
+func Programs(seed uint64, n, below int, after func(t api.Term, steps int) (api.Term, []api.Datum, api.Errno)) []api.Term {
+	r := NewRandom(seed)
+	var l []api.Term
+	for i := range n {
+		x := r.Program(i % 6)
+		if i%3 == 0 {
+			x, _, _ = after(x, r.Below(12))
+		}
+		if TermSize(x) < below {
+			l = append(l, x)
+		}
+	}
+	return l
+}
+
 func (r *Random) program(depth, sort int, around []known) api.Term {
 	if r.Below(60) == 0 {
 		sort = r.Below(sorts) // which may be a wrong one
@@ -75,16 +91,12 @@ func (r *Random) simple(sort int, around []known) api.Term {
 	return r.function(0, aNumber, around)
 }
 
-func primitive(op string, args ...api.Term) api.Term {
-	return api.Term{Op: api.Prim, Name: op, Args: args}
-}
-
 func (r *Random) number(depth int, around []known) api.Term {
 	of := func(sort int) api.Term { return r.program(depth, sort, around) }
 	switch r.Below(9) {
 	case 0, 1, 2:
 		first := of(aNumber)
-		return primitive([]string{"+", "-", "*", "quo", "rem"}[r.Below(5)], first, of(aNumber))
+		return Prim([]string{"+", "-", "*", "quo", "rem"}[r.Below(5)], first, of(aNumber))
 	case 3:
 		first := of(aFunction)
 		return api.Term{Op: api.App, Args: []api.Term{first, of(aNumber)}}
@@ -94,12 +106,12 @@ func (r *Random) number(depth int, around []known) api.Term {
 		return r.loop(depth, around)
 	case 6:
 		first := of(aNumber)
-		return primitive("car", primitive("cons", first, of(anything)))
+		return Prim("car", Prim("cons", first, of(anything)))
 	}
 	if r.Below(6) == 0 {
-		return primitive("fail", of(aNumber))
+		return Prim("fail", of(aNumber))
 	}
-	return primitive("car", of(aList))
+	return Prim("car", of(aList))
 }
 
 func (r *Random) truth(depth int, around []known) api.Term {
@@ -107,14 +119,14 @@ func (r *Random) truth(depth int, around []known) api.Term {
 	switch r.Below(4) {
 	case 0:
 		first := of(anything)
-		return primitive("eq", first, of(anything))
+		return Prim("eq", first, of(anything))
 	case 1:
 		first := of(aNumber)
-		return primitive("<", first, of(aNumber))
+		return Prim("<", first, of(aNumber))
 	case 2:
-		return primitive([]string{"pair?", "null?", "num?", "fn?", "not"}[r.Below(5)], of(anything))
+		return Prim([]string{"pair?", "null?", "num?", "fn?", "not"}[r.Below(5)], of(anything))
 	}
-	return primitive("not", of(aTruth))
+	return Prim("not", of(aTruth))
 }
 
 func (r *Random) pairs(depth int, around []known) api.Term {
@@ -123,12 +135,12 @@ func (r *Random) pairs(depth int, around []known) api.Term {
 	case 0:
 		return api.Term{Op: api.Marks}
 	case 1:
-		return primitive("cdr", of(aList))
+		return Prim("cdr", of(aList))
 	case 2:
-		return primitive("items", primitive("vector", of(aList)))
+		return Prim("items", Prim("vector", of(aList)))
 	}
 	first := of(anything)
-	return primitive("cons", first, of(aList))
+	return Prim("cons", first, of(aList))
 }
 
 // bound is a name for something, and what is known then.
@@ -147,13 +159,13 @@ func (r *Random) function(depth, sort int, around []known) api.Term {
 func (r *Random) loop(depth int, around []known) api.Term {
 	start := Quote(Num(r.Below(4)))
 	inside := append(slices.Clone(around), known{name: "n", sort: aNumber})
-	again := api.Term{Op: api.App, Args: []api.Term{Var("loop"), primitive("-", Var("n"), Quote(Num(1)))}}
+	again := api.Term{Op: api.App, Args: []api.Term{Var("loop"), Prim("-", Var("n"), Quote(Num(1)))}}
 	more := again
 	if r.Below(2) == 0 {
-		more = primitive("+", r.program(depth, aNumber, inside), again)
+		more = Prim("+", r.program(depth, aNumber, inside), again)
 	}
 	last := r.program(depth, aNumber, inside)
-	body := api.Term{Op: api.If, Args: []api.Term{primitive("<", Var("n"), Quote(Num(1))), last, more}}
+	body := api.Term{Op: api.If, Args: []api.Term{Prim("<", Var("n"), Quote(Num(1))), last, more}}
 	return api.Term{Op: api.App, Args: []api.Term{{Op: api.Rec, Name: "loop", Names: []string{"n"}, Args: []api.Term{body}}, start}}
 }
 
@@ -207,7 +219,7 @@ func (r *Random) calls(depth, sort int, around []known) api.Term {
 	}
 	list := Quote(api.Datum{})
 	for _, a := range slices.Backward(args) {
-		list = primitive("cons", a, list)
+		list = Prim("cons", a, list)
 	}
 	return api.Term{Op: api.Apply, Args: []api.Term{f, list}}
 }

@@ -2,6 +2,7 @@ package sample
 
 import (
 	"slices"
+	"strings"
 	"testing"
 
 	"caracole/api"
@@ -147,4 +148,71 @@ func boundAt(t api.Term, path []int, name string) bool {
 		t = t.Args[i]
 	}
 	return bound
+}
+
+// TestState: states by chance are the same each time, and are told by their texts; a state shares no memory with its copies.
+func TestState(t *testing.T) {
+	r, again, other := NewRandom(6), NewRandom(6), NewRandom(7)
+	kinds, changed := map[int]bool{}, 0
+	for i := range 300 {
+		s := r.State(i % 4)
+		text := StateText(s)
+		m := Memory{}
+		if copied, hollow := CopyState(s), HollowState(s); !SameState(s, again.State(i%4)) || !SameState(s, copied) || !SameState(s, hollow) || !m.States(s, copied, hollow) || StateText(hollow) != text || hollow.Val.Parts == nil || hollow.Term.Args == nil {
+			t.Error(text)
+		}
+		if len(s.Stack)+len(s.Env)+len(s.Out) > 0 && m.States(s) {
+			t.Error(text, "is not in memory")
+		}
+		kinds[s.Val.Kind] = true
+		wild := CopyState(s)
+		other.WildState(&wild)
+		same := SameState(s, wild)
+		if !same {
+			changed++
+		}
+		if StateText(s) != text || same && StateText(wild) != text {
+			t.Error(text, StateText(wild))
+		}
+	}
+	if len(kinds) != 4 || changed < 200 {
+		t.Error(kinds, changed)
+	}
+}
+
+// TestFrees: free names, and those of frames.
+func TestFrees(t *testing.T) {
+	for text, want := range map[string]string{"(fn (x) (f x y))": "f y", "(let x x x)": "x", "(rec f (x) (f x))": "", "(let x y (x z))": "y z", "(car (fn () x))": "x"} {
+		if got := strings.Join(Free(Term(text)), " "); got != want {
+			t.Error(text, got)
+		}
+	}
+	for text, want := range map[string]string{"(f x y)": "x y", "(let x y (x z))": "z", "(if a b (fn (c) (c d)))": "b d", "(emit x)": ""} {
+		if got := strings.Join(Behind(api.MachineFrame{Term: Term(text)}), " "); got != want {
+			t.Error(text, got)
+		}
+	}
+	for text, want := range map[string]int{"(f x y)": 3, "(let x 1 2)": 1, "(if 1 2 3)": 1, "(mark 1 2)": 2, "(marks)": 0, "x": 0, "(fn () 1)": 0} {
+		if got := Early(Term(text)); got != want {
+			t.Error(text, got)
+		}
+	}
+	if got := TermText(Renamed(Term("(rec f (x) (let y (car x) (f 5 z)))"))); got != "(rec qf (qx) (let qy (car qx) (qf 5 qz)))" {
+		t.Error(got)
+	}
+}
+
+func TestStateText(t *testing.T) {
+	one := api.MachineVal{Data: Num(1)}
+	f := api.MachineVal{Kind: api.MachineFn, Fun: Term("(fn () x)"), Env: []api.MachineBind{{Name: "x", Val: one}}}
+	frame := api.MachineFrame{Term: Term("(cons 1 x)"), Done: []api.MachineVal{f}, Env: f.Env}
+	for want, s := range map[string]api.MachineState{
+		"eval ()": {}, "mode 2 ()": {Mode: 2}, "failed 4": {Err: 4}, "back [fn (fn () x) x=1] on (cons 1 x) / [fn (fn () x) x=1] x=1 out 1 a": {Mode: 1, Val: f, Stack: []api.MachineFrame{frame}, Out: []api.Datum{Num(1), Sym("a")}},
+		"eval x x=1 [pair 1 [rest (cons 1 x) / [fn (fn () x) x=1] x=1;]]": {Term: Var("x"), Env: f.Env, Val: api.MachineVal{Kind: api.MachinePair, Parts: []api.MachineVal{one, {Kind: api.MachineRest, Stack: []api.MachineFrame{frame}}}}},
+		"back [9 1]": {Mode: 1, Val: api.MachineVal{Kind: 9, Data: Num(1)}}, "back [data 1 1]": {Mode: 1, Val: api.MachineVal{Data: Num(1), Parts: []api.MachineVal{one}}},
+	} {
+		if got := StateText(s); got != want {
+			t.Error(got, "want", want)
+		}
+	}
 }

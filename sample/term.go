@@ -137,6 +137,21 @@ func CopyTerm(t api.Term) api.Term {
 	return out
 }
 
+// Renamed is a term with longer names for all of its own.
+func Renamed(t api.Term) api.Term {
+	t = CopyTerm(t)
+	if t.Op != api.Prim && t.Name != "" {
+		t.Name = "q" + t.Name
+	}
+	for i := range t.Names {
+		t.Names[i] = "q" + t.Names[i]
+	}
+	for i := range t.Args {
+		t.Args[i] = Renamed(t.Args[i])
+	}
+	return t
+}
+
 // SameTerm is equality of terms in all fields, written apart from the layers.
 func SameTerm(a, b api.Term) bool {
 	return a.Op == b.Op && a.Name == b.Name && slices.Equal(a.Names, b.Names) && Same(a.Data, b.Data) && slices.EqualFunc(a.Args, b.Args, SameTerm)

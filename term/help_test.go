@@ -19,25 +19,15 @@ var (
 	text, same          = sample.TermText, sample.SameTerm
 	quote, variable     = sample.Quote, sample.Var
 	allPaths, follow    = sample.TermPaths, sample.FollowTerm
+	toldOr, told        = sample.Told, sample.ToldTerm
+	toldData            = sample.ToldDatum
+	size, call          = sample.TermSize, sample.Call
 )
 
 func list(l ...api.Datum) api.Datum { return sample.List(api.Datum{}, l...) }
 
-// told is what a function returns for a term: its text, or the error.
-func told(t api.Term, e api.Errno) string { return toldOr(text(t), e) }
-
-// toldData is what a function returns for a datum.
-func toldData(d api.Datum, e api.Errno) string { return toldOr(show(d), e) }
-
 // toldNames is what a function returns for names.
 func toldNames(l []string, e api.Errno) string { return toldOr(strings.Join(l, " "), e) }
-
-func toldOr(s string, e api.Errno) string {
-	if e != api.OK {
-		return "error " + strconv.Itoa(int(e))
-	}
-	return s
-}
 
 // terms are many terms, in which names clash often.
 func terms(seed uint64, n int) []api.Term {
@@ -47,15 +37,6 @@ func terms(seed uint64, n int) []api.Term {
 		l = append(l, r.Term(1+i%5))
 	}
 	return l
-}
-
-// size is of how many terms a term consists.
-func size(t api.Term) int {
-	n := 1
-	for _, a := range t.Args {
-		n += size(a)
-	}
-	return n
 }
 
 // boundBy are the names that a term binds in an argument, written apart from package term.
@@ -176,11 +157,6 @@ func deep(n int) api.Term {
 		t = api.Term{Op: api.Emit, Args: []api.Term{t}}
 	}
 	return t
-}
-
-// call is a call of a function with arguments.
-func call(f api.Term, args ...api.Term) api.Term {
-	return api.Term{Op: api.App, Args: append([]api.Term{f}, args...)}
 }
 
 // bushy is a call of calls, of n terms, that is not deep.
